@@ -36,6 +36,22 @@ func (s Set) Join(other Set) Set {
 	return s
 }
 
+// Meet answers the set of what both have.
+func (s Set) Meet(other Set) Set {
+	for i := range s {
+		s[i] &= other[i]
+	}
+	return s
+}
+
+// Less answers the set of what the other one has not.
+func (s Set) Less(other Set) Set {
+	for i := range s {
+		s[i] &^= other[i]
+	}
+	return s
+}
+
 // Meets tells whether there is a state that both have.
 func (s Set) Meets(other Set) bool {
 	for i := range s {

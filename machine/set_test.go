@@ -26,13 +26,22 @@ func TestOf(t *testing.T) {
 	}
 }
 
-// With, Join and Meets leave the sets that they are asked of as they are.
+// With, Join, Meet, Less and Meets leave the sets that they are asked of as they are.
 func TestSets(t *testing.T) {
 	a, b := Of([]int{0, 70}), Of([]int{70, 200})
 	if l := a.Join(b).Row(); !slices.Equal(l, []int{0, 70, 200}) {
 		t.Error(l)
 	}
 	if l := a.With(3).Row(); !slices.Equal(l, []int{0, 3, 70}) {
+		t.Error(l)
+	}
+	if l := a.Meet(b).Row(); !slices.Equal(l, []int{70}) {
+		t.Error(l)
+	}
+	if l := a.Less(b).Row(); !slices.Equal(l, []int{0}) {
+		t.Error(l)
+	}
+	if l := b.Less(a).Row(); !slices.Equal(l, []int{200}) {
 		t.Error(l)
 	}
 	if a != Of([]int{70, 0}) || b != Of([]int{200, 70}) {
