@@ -375,3 +375,36 @@ func TestSameList(t *testing.T) {
 		t.Error(got, e, l)
 	}
 }
+
+// Leader tells what After does of one event, and of what m has not: nowhere.
+func TestLeader(t *testing.T) {
+	m := fullest()
+	m.States, m.Arrows = 130, slices.DeleteFunc(m.Arrows, func(a api.Arrow) bool { return a.From >= 130 || a.To >= 130 })
+	m.Starts, m.Ends = nil, nil
+	lead := Leader(m)
+	for n := range m.States {
+		for event := range m.Events {
+			from := Of([]int{n, n / 2})
+			want, e := After(m, from.Row(), []int{event})
+			if l := lead(from, event).Row(); e != api.OK || !slices.Equal(l, want) {
+				t.Fatalf("%d at %d: %v; asked for: %v", n, event, l, want)
+			}
+		}
+	}
+	for _, event := range []int{-1, m.Events, math.MaxInt, math.MinInt} {
+		if s := lead(Of([]int{0, 1}), event); s != (Set{}) {
+			t.Errorf("at %d: %v", event, s.Row())
+		}
+	}
+	if s := lead(Of([]int{130, 255}), 0); s != (Set{}) {
+		t.Error(s.Row())
+	}
+	if s := lead(Of([]int{1, 255}), 0); s != lead(Of([]int{1}), 0) || s == (Set{}) {
+		t.Error(s.Row())
+	}
+	for name, m := range wrong() {
+		if s := Leader(m)(Of([]int{0, 1}), 0); s != (Set{}) {
+			t.Errorf("%s: %v", name, s.Row())
+		}
+	}
+}
