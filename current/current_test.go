@@ -560,6 +560,36 @@ func TestPlainLeak(t *testing.T) {
 	}
 }
 
+// Estimates: all estimates, each once, with the least list that has it, lesser
+// lists first; no two of those lists share anything.
+func TestEstimates(t *testing.T) {
+	plants(t, 800, 3, 2, func(p api.Plant) {
+		places, e := Estimates(p)
+		var want []Place
+		known := map[machine.Set]int{}
+		// there are at most 8 estimates: so 7 events are enough
+		for _, word := range words(p.Seen, 7) {
+			s := machine.Of(plainEstimate(p, word))
+			if known[s]++; known[s] == 1 {
+				want = append(want, Place{s, word})
+			}
+		}
+		same := func(a, b Place) bool { return a.Set == b.Set && slices.Equal(a.Word, b.Word) }
+		if e != api.OK || !slices.EqualFunc(places, want, same) {
+			t.Errorf("Estimates(%v): %v, %d; asked for: %v", p, places, e, want)
+		}
+		for i := range places {
+			scribble(places[i].Word)
+			if !slices.EqualFunc(places[i+1:], want[i+1:], same) {
+				t.Fatalf("Estimates(%v): a list is shared", p)
+			}
+		}
+	})
+	if l, e := Estimates(api.Plant{}); len(l) != 0 || e != api.ErrForm {
+		t.Error(l, e)
+	}
+}
+
 // I1: which states are Ends counts for nothing.
 func TestEnds(t *testing.T) {
 	plants(t, 400, 4, 3, func(p api.Plant) {

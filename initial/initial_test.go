@@ -581,6 +581,38 @@ func TestTogether(t *testing.T) {
 	})
 }
 
+// Origins: all sets of states from which a run goes on of some list, each once,
+// with its least list, lesser lists first; no two of those lists share anything.
+func TestOrigins(t *testing.T) {
+	plants(t, 800, 3, 2, func(p api.Plant) {
+		places, e := Origins(p)
+		anywhere := p
+		anywhere.Machine.Starts = count(p.Machine.States)
+		var want []current.Place
+		known := map[machine.Set]int{}
+		// there are at most 8 sets: so 7 events are enough
+		for _, word := range words(p.Seen, 7) {
+			s := machine.Of(plainBegan(anywhere, word))
+			if known[s]++; known[s] == 1 {
+				want = append(want, current.Place{Set: s, Word: word})
+			}
+		}
+		same := func(a, b current.Place) bool { return a.Set == b.Set && slices.Equal(a.Word, b.Word) }
+		if e != api.OK || !slices.EqualFunc(places, want, same) {
+			t.Errorf("Origins(%v): %v, %d; asked for: %v", p, places, e, want)
+		}
+		for i := range places {
+			scribble(places[i].Word)
+			if !slices.EqualFunc(places[i+1:], want[i+1:], same) {
+				t.Fatalf("Origins(%v): a list is shared", p)
+			}
+		}
+	})
+	if l, e := Origins(api.Plant{}); len(l) != 0 || e != api.ErrForm {
+		t.Error(l, e)
+	}
+}
+
 // I1: which states are Ends counts for nothing.
 func TestEnds(t *testing.T) {
 	plants(t, 400, 4, 3, func(p api.Plant) {

@@ -62,6 +62,11 @@ func (s Set) Meets(other Set) bool {
 	return false
 }
 
+// OnlyIn tells whether the set has states, and all of them are the other one's.
+func (s Set) OnlyIn(other Set) bool {
+	return s != (Set{}) && s.Less(other) == (Set{})
+}
+
 // All goes through the states of the set, rising.
 func (s Set) All() iter.Seq[int] {
 	return func(yield func(n int) bool) {

@@ -52,6 +52,28 @@ func TestSets(t *testing.T) {
 	}
 }
 
+// OnlyIn: an empty set is in none only.
+func TestOnlyIn(t *testing.T) {
+	for _, c := range []struct {
+		l, other []int
+		is       bool
+	}{
+		{nil, nil, false},
+		{nil, []int{0, 255}, false},
+		{[]int{0}, nil, false},
+		{[]int{70}, []int{70}, true},
+		{[]int{70}, []int{6, 70, 200}, true},
+		{[]int{6, 70, 200}, []int{70}, false},
+		{[]int{6, 70, 200}, []int{6, 70, 200}, true},
+		{[]int{6, 70}, []int{6, 200}, false},
+		{[]int{6}, []int{70}, false},
+	} {
+		if is := Of(c.l).OnlyIn(Of(c.other)); is != c.is {
+			t.Errorf("%v only in %v: %v", c.l, c.other, is)
+		}
+	}
+}
+
 // All ends where its loop does, and can be gone through again.
 func TestAll(t *testing.T) {
 	all := Of([]int{1, 2, 100, 200}).All()
