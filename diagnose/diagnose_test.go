@@ -382,7 +382,7 @@ func TestAllMachines(t *testing.T) {
 		for _, at := range ofBits(arrows) {
 			m.Arrows = append(m.Arrows, api.Arrow{From: at / 4, Event: at / 2 % 2, To: at % 2})
 		}
-		for _, starts := range [][]int{{0}, {0, 1}} {
+		for _, starts := range [][]int{nil, {0}, {1}, {0, 1}} {
 			m.Starts = starts
 			for _, seen := range [][]int{nil, {0}, {1}, {0, 1}} {
 				want := byWords(t, m, seen, []int{0})
